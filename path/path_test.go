@@ -266,6 +266,19 @@ func TestJoin(t *testing.T) {
 		{[]string{"a/", "b"}, ""},
 		{[]string{"a", "/b"}, ""},
 		{[]string{"é", "a"}, ""},
+		{[]string{"/"}, ""},
+		{[]string{"a/"}, ""},
+		{[]string{"/a"}, ""},
+		{[]string{"a/b"}, ""},
+		{[]string{"a/b/c"}, ""},
+		{[]string{"a/b", "c"}, ""},
+		{[]string{"a", "b/c"}, ""},
+		{[]string{"a", "b/c", "d"}, ""},
+		{[]string{"c/d", "a", "aa"}, ""},
+		{[]string{"a/b", "c/d"}, ""},
+		{[]string{row(16)}, ""},
+		{[]string{row(8), row(8)}, ""},
+		{[]string{long(200)}, ""},
 		{a[:15], row(15)},
 		{a[:16], row(16)},
 		{a[:17], ""},
@@ -287,7 +300,7 @@ func TestJoin(t *testing.T) {
 
 // P5.1: each row of up to three names, and of texts that are none.
 func TestJoinOfEachRow(t *testing.T) {
-	of := []string{"a", "b.c", "..", "", "B", "..."}
+	of := []string{"a", "b.c", "..", "", "B", "...", "a/b", "b.c/a/..."}
 	good := func(s string) bool { return s == "a" || s == "b.c" || s == "..." }
 	for _, a := range of {
 		for _, b := range of {
@@ -299,6 +312,24 @@ func TestJoinOfEachRow(t *testing.T) {
 				if got := path.Join(a, b, c); got != want {
 					t.Errorf("Join(%q, %q, %q) = %q, want %q", a, b, c, got, want)
 				}
+			}
+		}
+	}
+}
+
+// P5.1: each text by itself is a path of one name, or none: what Split tells as several names is none, as one.
+func TestJoinOfOneText(t *testing.T) {
+	for _, l := range [][]string{texts(6, "a./"), paths(4, "a", "b.", "..."), right(), wrong()} {
+		for _, s := range l {
+			want := ""
+			if len(slowSplit(s)) == 1 {
+				want = s
+			}
+			if got := path.Join(s); got != want {
+				t.Errorf("Join(%.300q) = %.300q, want %q", s, got, want)
+			}
+			if got := path.Join(s, "b"); (got != "") != (want != "") {
+				t.Errorf("Join(%.300q, b) = %.300q", s, got)
 			}
 		}
 	}
